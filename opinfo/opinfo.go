@@ -2,6 +2,8 @@
 package opinfo
 
 import (
+	"slices"
+
 	"saturate/api"
 )
 
@@ -92,6 +94,22 @@ func Width(op api.Op, width int, val uint64, args []int) (int, api.Errno) {
 		return 0, api.ErrWidth
 	}
 	return w, api.OK
+}
+
+// Concrete returns the error of Width, or else the first of these: ErrOp if op is
+// a pattern operator, ErrWidth if a width involved is generic. Otherwise it
+// returns the width of the value of op. The abstract domains share it.
+func Concrete(op api.Op, width int, val uint64, args []int) (int, api.Errno) {
+	result, e := Width(op, width, val, args)
+	switch {
+	case e != api.OK:
+		return 0, e
+	case Pattern(op):
+		return 0, api.ErrOp
+	case result == 0 || slices.Contains(args, 0):
+		return 0, api.ErrWidth
+	}
+	return result, api.OK
 }
 
 // isWidth reports whether w is a width or the generic width 0.

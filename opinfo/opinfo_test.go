@@ -244,3 +244,29 @@ func TestWidthArguments(t *testing.T) {
 		t.Error("concat", w, e)
 	}
 }
+
+// TestConcrete checks Concrete against Width: it also rejects pattern operators and generic widths.
+func TestConcrete(t *testing.T) {
+	for op := api.OpVar; op <= api.OpEval; op++ {
+		argsOf(arity(op), someWidths, func(args []int) {
+			for _, width := range someWidths {
+				for _, val := range []uint64{0, 3, math.MaxUint64} {
+					want, wantError := opinfo.Width(op, width, val, args)
+					if wantError == api.OK && oneOf(op, "hole num eval") {
+						want, wantError = 0, api.ErrOp
+					} else if wantError == api.OK && (want == 0 || slices.Contains(args, 0)) {
+						want, wantError = 0, api.ErrWidth
+					}
+					if w, e := opinfo.Concrete(op, width, val, args); w != want || e != wantError {
+						t.Fatalf("Concrete(%d, %d, %d, %v) is %d, %d, not %d, %d", op, width, val, args, w, e, want, wantError)
+					}
+				}
+			}
+		})
+	}
+	for _, op := range notOperators {
+		if w, e := opinfo.Concrete(op, 8, 0, []int{8, 8}); w != 0 || e != api.ErrOp {
+			t.Errorf("Concrete(%d) is %d, %d", op, w, e)
+		}
+	}
+}
