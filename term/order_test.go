@@ -276,3 +276,24 @@ func TestDeepTerms(t *testing.T) {
 		t.Error("Make")
 	}
 }
+
+// TestShapeOf checks that ShapeOf tells roots apart by all parts and by the numbers of their operands.
+func TestShapeOf(t *testing.T) {
+	base := api.Term{Op: 3, Width: 4, Val: 5, Name: "n"}
+	for i, c := range []struct {
+		t        api.Term
+		operands []int
+	}{
+		{api.Term{Op: 4, Width: 4, Val: 5, Name: "n"}, []int{1, 2}}, {api.Term{Op: 3, Width: 5, Val: 5, Name: "n"}, []int{1, 2}}, {api.Term{Op: 3, Width: 4, Val: 6, Name: "n"}, []int{1, 2}}, {api.Term{Op: 3, Width: 4, Val: 5, Name: "m"}, []int{1, 2}},
+		{base, nil}, {base, []int{1}}, {base, []int{12}}, {base, []int{2, 1}}, {base, []int{1, 2, 2}}, {base, []int{1, 22}},
+	} {
+		if term.ShapeOf(c.t, c.operands) == term.ShapeOf(base, []int{1, 2}) {
+			t.Errorf("case %d has the same shape", i)
+		}
+	}
+	withArgs := base
+	withArgs.Args = []api.Term{x, y}
+	if term.ShapeOf(withArgs, []int{1, 2}) != term.ShapeOf(base, []int{1, 2}) {
+		t.Error("the operands count by their numbers alone")
+	}
+}
