@@ -302,6 +302,31 @@ func TestFoldMemory(t *testing.T) {
 	}
 }
 
+// TestEach checks Each, which does what P8.2 says for several environments.
+func TestEach(t *testing.T) {
+	envs := [][]api.Bind{{{Name: "x", Val: 3}}, {{Name: "y"}, {Name: "x", Val: 18}, {Name: "x", Val: 1}}, {{Name: "x", Val: 15}, {Name: "", Val: 9}}}
+	not := term.Make(api.OpNot, term.Var("x", 4))
+	for n := range len(envs) + 1 {
+		values, e := eval.Each(not, envs[:n])
+		if want := []uint64{12, 13, 0}[:n]; e != api.OK || !slices.Equal(values, want) {
+			t.Errorf("%v, %d, not %v", values, e, want)
+		}
+	}
+	if values, e := eval.Each(not, append(envs, nil)); len(values) != 0 || e != api.ErrBind {
+		t.Error("a variable is missing:", values, e)
+	}
+	if values, e := eval.Each(term.Const(4, 7), [][]api.Bind{nil, nil}); !slices.Equal(values, []uint64{7, 7}) || e != api.OK {
+		t.Error("no variables:", values, e)
+	}
+	for want, terms := range invalid() {
+		for _, u := range terms {
+			if values, e := eval.Each(u, nil); len(values) != 0 || e != want {
+				t.Errorf("Each of %v is %v, %d, not %d", u, values, e, want)
+			}
+		}
+	}
+}
+
 // TestClosed checks Closed of P8.3, for invalid terms too.
 func TestClosed(t *testing.T) {
 	hole := api.Term{Op: api.OpHole, Width: 4, Name: "h"}

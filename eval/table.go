@@ -45,6 +45,20 @@ func (p *program) add(t api.Term) int {
 	return len(p.nodes) - 1
 }
 
+// bind returns the values of the variables in an environment, and whether it has
+// an entry for all of them.
+func (p *program) bind(vars []api.Var, env []api.Bind) ([]uint64, bool) {
+	inputs, bound := make([]uint64, len(vars)), make([]bool, len(vars))
+	missing := len(vars)
+	for _, b := range env {
+		if i, ok := p.inputs[b.Name]; ok && !bound[i] {
+			inputs[i], bound[i] = bits.Cut(vars[i].Width, b.Val), true
+			missing--
+		}
+	}
+	return inputs, missing == 0
+}
+
 // run returns the value of the term for reduced values of the variables.
 func (p *program) run(inputs []uint64) uint64 {
 	var x operands
