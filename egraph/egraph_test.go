@@ -70,7 +70,7 @@ func TestExample(t *testing.T) {
 func TestNew(t *testing.T) {
 	g := egraph.New()
 	d := g.Dump()
-	if g.Len() != 0 || g.Count() != 0 || len(g.Classes()) != 0 || len(d.Nodes)+len(d.Links)+len(d.Roots) != 0 || g.Dirty() || g.Rebuild() != 0 || g.Undo(0) || g.Find(0) != -1 {
+	if !g.Made() || g.Len() != 0 || g.Count() != 0 || len(g.Classes()) != 0 || len(d.Nodes)+len(d.Links)+len(d.Roots) != 0 || g.Dirty() || g.Rebuild() != 0 || g.Undo(0) || g.Find(0) != -1 {
 		t.Error(d)
 	}
 	if h := egraph.New(); mustAdd(t, h, variable("a", 8)) != 0 || g.Len() != 0 {
@@ -94,6 +94,9 @@ func TestUnusable(t *testing.T) {
 		}
 		if ok, e := g.Union(0, 1, api.WhyCongruent); ok || e != api.ErrNil {
 			t.Errorf("%d: Union is %v, %d", i, ok, e)
+		}
+		if g.Made() {
+			t.Errorf("%d: New made it", i)
 		}
 		if g.Find(0) != -1 || g.Width(0) != -1 || g.Mark() != -1 || g.Undo(0) || g.Undo(-1) {
 			t.Errorf("%d: %d, %d, %d, %v", i, g.Find(0), g.Width(0), g.Mark(), g.Undo(0))
