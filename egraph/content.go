@@ -118,6 +118,20 @@ func (c *content) dirty() bool {
 	return c.repaired < len(c.joins)
 }
 
+// connect is Union for any reason.
+func (c *content) connect(a, b, why int) (bool, api.Errno) {
+	switch {
+	case !c.has(a) || !c.has(b):
+		return false, api.ErrRange
+	case c.nodes[a].Width != c.nodes[b].Width:
+		return false, api.ErrWidth
+	case c.Same(a, b):
+		return false, api.OK
+	}
+	c.join(a, b, why)
+	return true, api.OK
+}
+
 // join joins the classes of two ids, which are different.
 func (c *content) join(a, b, why int) {
 	loser := max(c.Find(a), c.Find(b))

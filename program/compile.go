@@ -19,6 +19,20 @@ type compiler struct {
 
 // Compile is specified in P25.2.
 func Compile(atoms []api.Atom) (api.MProg, api.Errno) {
+	p, e := Plan(atoms)
+	if e != api.OK {
+		return api.MProg{}, e
+	}
+	if Check(p) != api.OK {
+		// Several large atoms can need too many registers or instructions.
+		return api.MProg{}, api.ErrLong
+	}
+	return p, api.OK
+}
+
+// Plan returns the error of CheckAtoms, and otherwise the program for atoms, which
+// can exceed the limits of programs, but is valid otherwise.
+func Plan(atoms []api.Atom) (api.MProg, api.Errno) {
 	if e := CheckAtoms(atoms); e != api.OK {
 		return api.MProg{}, e
 	}
@@ -27,10 +41,6 @@ func Compile(atoms []api.Atom) (api.MProg, api.Errno) {
 		c.addAtom(a)
 	}
 	c.tell(atoms)
-	if Check(c.prog) != api.OK {
-		// Several large atoms can need too many registers or instructions.
-		return api.MProg{}, api.ErrLong
-	}
 	return c.prog, api.OK
 }
 

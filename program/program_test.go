@@ -183,10 +183,24 @@ func TestLimits(t *testing.T) {
 	}
 	checkLimits(t, api.Atom{Pattern: holes(0, 16)})
 	checkLimits(t, api.Atom{Pattern: greatest}, api.Atom{Root: "r", Pattern: greatest}, api.Atom{Root: "s", Pattern: mixed}, api.Atom{Root: "r", Pattern: ground})
-	// No program is great enough for all patterns.
+	// No program is great enough for all patterns, but Plan goes beyond the limits.
 	list := []api.Atom{{Pattern: grove(0)}, {Pattern: grove(1)}, {Pattern: grove(2)}, {Pattern: grove(3)}}
 	if p, e := program.Compile(list); e != api.ErrLong || len(p.Ins) > 0 {
 		t.Errorf("four large atoms: %d instructions, %d", len(p.Ins), e)
+	}
+	if p, e := program.Plan(list); e != api.OK || len(p.Ins) < 3*4000 || len(p.Roots) != 4 || program.Check(p) != api.ErrForm {
+		t.Errorf("four large atoms: a plan of %d instructions, %d", len(p.Ins), e)
+	}
+}
+
+// TestPlan checks that Plan returns what Compile returns, if that is not too long.
+func TestPlan(t *testing.T) {
+	for _, list := range [][]api.Atom{nil, atoms(t, "", "x:8"), atoms(t, "", "?a:0"), atoms(t, "A", "?a:8"), atoms(t, "", "?a:8", "", "?a:4"), atoms(t, "r", "(add ?a:8 #c:8)", "a", "(mul ?b:8 (not 1:8))"), {{Pattern: grove(0)}}} {
+		p, e := program.Plan(list)
+		q, f := program.Compile(list)
+		if e != f || show(p) != show(q) || p.Regs != q.Regs || !slices.Equal(p.Roots, q.Roots) || !slices.Equal(p.Holes, q.Holes) || !slices.Equal(p.Nums, q.Nums) {
+			t.Errorf("%v: %v, %d, not %v, %d", list, p, e, q, f)
+		}
 	}
 }
 
