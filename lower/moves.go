@@ -44,7 +44,7 @@ func move(to, from int) api.Ins {
 	return api.Ins{Op: api.MMov, Dst: to, A: from}
 }
 
-// unused returns the first register that is in none of two lists.
+// unused returns the first register that is in neither of two lists, or none.
 func unused(regs int, a, b []int) int {
 	for r := range regs {
 		if !slices.Contains(a, r) && !slices.Contains(b, r) {
@@ -70,7 +70,7 @@ func newPending(from, to []int) *pending {
 // next returns a target that no move reads, and true; or, if there are only cycles,
 // any target, and false.
 func (p *pending) next() (int, bool) {
-	any := none
+	cyclic := none
 	for r, source := range p {
 		if source == none {
 			continue
@@ -78,9 +78,9 @@ func (p *pending) next() (int, bool) {
 		if !slices.Contains(p[:], r) {
 			return r, true
 		}
-		any = r
+		cyclic = r
 	}
-	return any, false
+	return cyclic, false
 }
 
 // redirect lets the moves read another register instead of one.

@@ -187,6 +187,28 @@ func TestRandom(t *testing.T) {
 	}
 }
 
+// TestRandomFlags checks Flag of P52.1 for random flags and values, also for such with safe divisors, which do not count.
+func TestRandomFlags(t *testing.T) {
+	r := rand.New(rand.NewPCG(52, 4))
+	counts := map[bool]int{}
+	for range 5000 {
+		s := &source{Rand: r, width: 1 + r.IntN(8), regs: 8}
+		x := s.flag(1 + r.IntN(4))
+		zext := api.Term{Op: api.OpZext, Width: s.width, Args: []api.Term{x}}
+		want := lower.Supported(s.width, 8, zext, nil) == api.OK
+		if lower.Flag(x) != want || len(s.safe) == 0 && !want {
+			t.Fatalf("Flag of %v is %v", x, !want)
+		}
+		if y := s.value(4); lower.Flag(y) && s.width > 1 {
+			t.Fatalf("%v is a flag", y)
+		}
+		counts[want]++
+	}
+	if counts[true] < 1000 || counts[false] < 100 {
+		t.Error(counts)
+	}
+}
+
 // TestFewValues checks that registers suffice for few values (P52.2), also for terms that occur several times.
 func TestFewValues(t *testing.T) {
 	r := rand.New(rand.NewPCG(52, 2))
@@ -221,6 +243,7 @@ func TestFewValues(t *testing.T) {
 func TestPrograms(t *testing.T) {
 	r := rand.New(rand.NewPCG(52, 3))
 	longer, fails, all := 0, 0, 0
+	before, after := 0, 0 // instructions
 	for range 3000 {
 		c := api.Code{Width: 1 + r.IntN(4), Regs: 1 + r.IntN(8)}
 		for range 1 + r.IntN(12) {
@@ -251,9 +274,11 @@ func TestPrograms(t *testing.T) {
 		case len(d.Ins) > len(c.Ins):
 			longer++
 		}
+		before, after = before+len(c.Ins), after+len(d.Ins)
 		checkCode(t, r, d, c.Width, c.Regs, terms, c.Out, divisors)
 	}
-	if all < 2000 || 50*fails > all || 50*longer > all {
-		t.Errorf("%d programs, %d longer, %d not lowered", all, longer, fails)
+	// No promise says so, but other orders or registers would need more instructions.
+	if all < 2900 || fails > 30 || longer > 5 || 1000*after > 962*before {
+		t.Errorf("%d programs, %d longer, %d not lowered, %d instructions instead of %d", all, longer, fails, after, before)
 	}
 }

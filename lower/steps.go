@@ -48,8 +48,8 @@ type coder interface {
 	flag(t api.Term) int
 }
 
-// code adds the steps for a term to the code of a machine. If the width is 1, the
-// steps for values are right for flags, too.
+// code adds the steps for a term. If the width of the machine is 1, the steps for
+// values are right for flags, too.
 func code(c coder, width int, t api.Term) int {
 	if t.Width == width {
 		return c.value(t)
@@ -130,8 +130,7 @@ func (g *generator) choose(cond, yes, no api.Term) int {
 }
 
 // simplify returns an operand of a condition that can take its place, because it is 0
-// exactly if the condition is 0, or else exactly if the condition is 1; then it
-// inverts the condition.
+// exactly if the condition is 0, or exactly if it is not: then it inverts the condition.
 func simplify(cond api.Term) (simpler api.Term, inverts, ok bool) {
 	switch {
 	case cond.Op == api.OpZext:

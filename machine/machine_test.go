@@ -194,6 +194,7 @@ func TestHolds(t *testing.T) {
 		func(m *api.Match) { m.Roots = m.Roots[:1] }, func(m *api.Match) { m.Roots = append(m.Roots, 4) }, func(m *api.Match) { m.Roots = nil }, func(m *api.Match) { m.Roots[0] = 0 }, func(m *api.Match) { m.Roots[1] = 3 }, func(m *api.Match) { m.Roots[1] = -1 }, func(m *api.Match) { m.Roots[0], m.Roots[1] = 4, 2 },
 		func(m *api.Match) { m.Holes = m.Holes[:2] }, func(m *api.Match) { m.Holes = append(m.Holes, api.Pair{Name: "t", Id: 0}) }, func(m *api.Match) { m.Holes = append(m.Holes, m.Holes[2]) }, func(m *api.Match) { m.Holes = nil }, func(m *api.Match) { m.Holes[0], m.Holes[1] = m.Holes[1], m.Holes[0] }, func(m *api.Match) { m.Holes[0].Name = "b" },
 		func(m *api.Match) { m.Holes[0].Id = 3 }, func(m *api.Match) { m.Holes[0].Id = 1 }, func(m *api.Match) { m.Holes[1].Id = 0 }, func(m *api.Match) { m.Holes[2].Id = 0 }, func(m *api.Match) { m.Holes[2].Id = -1 }, func(m *api.Match) { m.Holes[2].Id = math.MaxInt },
+		func(m *api.Match) { m.Roots[1], m.Holes[2].Id = 0, 0 }, func(m *api.Match) { m.Roots[1], m.Holes[2].Id = -1, -1 }, func(m *api.Match) { m.Roots[1], m.Holes[2].Id = 5, 5 },
 		func(m *api.Match) { m.Nums = nil }, func(m *api.Match) { m.Nums = append(m.Nums, api.Bind{Name: "d", Val: 3}) }, func(m *api.Match) { m.Nums[0].Name = "d" }, func(m *api.Match) { m.Nums[0].Val = 4 }, func(m *api.Match) { m.Nums[0].Val = 259 },
 	} {
 		m := match()
@@ -275,8 +276,40 @@ func TestPrograms(t *testing.T) {
 	}
 }
 
-// TestMemory checks general rule 5: matches share no memory.
+// TestOrder checks that Run returns the first matches also if they are found in another order (P26.2).
+func TestOrder(t *testing.T) {
+	g := variables(t, 7)
+	for _, order := range [][]int{{0, 1, 2}, {0, 2, 1}, {1, 0, 2}, {1, 2, 0}, {2, 0, 1}, {2, 1, 0}} {
+		for _, between := range [][]api.MInstr{nil, {{Kind: api.MWidth, A: order[0], B: 8}}} {
+			p := api.MProg{Regs: 3, Roots: []int{0, 1}, Holes: []api.Slot{{Name: "a", Reg: 2}}}
+			for k, reg := range order {
+				p.Ins = append(p.Ins, api.MInstr{Kind: api.MScan, A: reg})
+				if k == 0 {
+					p.Ins = append(p.Ins, between...)
+				}
+			}
+			for most := range 7*7*7 + 2 {
+				l, e := machine.Run(g, p, most)
+				if e != api.OK || len(l) != min(most, 7*7*7) {
+					t.Fatal(order, most, len(l), e)
+				}
+				for k, m := range l {
+					if want := (api.Match{Roots: []int{k / 49, k / 7 % 7}, Holes: []api.Pair{{Name: "a", Id: k % 7}}}); !machine.Same(m, want) {
+						t.Fatalf("%v with most %d: match %d is %v, not %v", order, most, k, m, want)
+					}
+				}
+			}
+		}
+	}
+}
+
+// TestMemory checks general rule 5: matches share no memory, and a program keeps what is behind the end of its slices.
 func TestMemory(t *testing.T) {
+	roots := []int{0, 77}
+	p := api.MProg{Ins: []api.MInstr{{Kind: api.MScan}}, Regs: 1, Roots: roots[:1], Holes: []api.Slot{{Name: "a"}}}
+	if l, e := machine.Run(graph(t, "x:8"), p, 10); e != api.OK || len(l) != 1 || roots[1] != 77 {
+		t.Error(l, e, roots)
+	}
 	g := graph(t, "(add x:8 1:8)", "(add y:8 2:8)")
 	list := atoms(t, "", "(add ?a:8 #c:8)")
 	l, _ := machine.Find(g, list, 10)
