@@ -1,24 +1,19 @@
 package machine
 
 import (
-	"slices"
-
 	"saturate/api"
 	"saturate/egraph"
-	"saturate/opinfo"
 	"saturate/represent"
 )
 
 // execution executes a program on an e-graph.
 type execution struct {
+	plan
 	graph   *egraph.Graph
 	classes []int
 	nodes   map[int][]api.Node // by class, as far as they were needed
 	lookups map[int]int        // by instruction, the class of its Term, likewise; -1 if it has none
-	prog    api.MProg
-	values  []uint64 // of the class registers, and then of the number registers
-	outs    []int    // the registers that tell a match, the most significant one first
-	settled []int    // by instruction, how many of the first outs are set after it
+	values  []uint64           // of the registers
 	found   *collection
 }
 
@@ -28,15 +23,14 @@ func execute(g *egraph.Graph, p api.MProg, most int) []api.Match {
 		return nil
 	}
 	x := &execution{
+		plan:    newPlan(p),
 		graph:   g,
 		classes: g.Classes(),
 		nodes:   map[int][]api.Node{},
 		lookups: map[int]int{},
-		prog:    p,
-		values:  make([]uint64, p.Regs+api.MaxHoles),
+		values:  make([]uint64, registers(p)),
 		found:   &collection{most: min(most, api.MaxMatches)},
 	}
-	x.plan()
 	x.run(0)
 	var matches []api.Match
 	for _, key := range x.found.first() {
@@ -45,61 +39,32 @@ func execute(g *egraph.Graph, p api.MProg, most int) []api.Match {
 	return matches
 }
 
-// plan finds out which registers tell a match, and when they are set.
-func (x *execution) plan() {
-	x.outs = slices.Clone(x.prog.Roots)
-	for _, s := range x.prog.Holes {
-		x.outs = append(x.outs, s.Reg)
-	}
-	for _, s := range x.prog.Nums {
-		x.outs = append(x.outs, x.prog.Regs+s.Reg)
-	}
-	set := make([]bool, len(x.values))
-	settled := 0
-	for _, i := range x.prog.Ins {
-		first, n := x.targets(i)
-		for k := range n {
-			set[first+k] = true
+// run executes the program from an instruction on. It returns an instruction: other
+// choices from that one on would find nothing else.
+func (x *execution) run(at int) int {
+	cut := x.cuts[at]
+	for at < len(x.prog.Ins) && !isChoice(x.prog.Ins[at]) {
+		if !x.passes(at) {
+			return cut
 		}
-		for settled < len(x.outs) && set[x.outs[settled]] {
-			settled++
+		at++
+		cut = min(cut, x.cuts[at])
+	}
+	if at == len(x.prog.Ins) {
+		x.found.add(x.key())
+		return cut
+	}
+	for range x.choices(x.prog.Ins[at]) {
+		if x.isLate(at) {
+			continue
 		}
-		x.settled = append(x.settled, settled)
-	}
-}
-
-// targets returns the first one of the registers that an instruction sets, and
-// their number.
-func (x *execution) targets(i api.MInstr) (int, int) {
-	switch i.Kind {
-	case api.MScan:
-		return i.A, 1
-	case api.MBind:
-		return i.B, opinfo.Arity(i.Node.Op)
-	case api.MNum:
-		return x.prog.Regs + i.B, 1
-	}
-	return 0, 0
-}
-
-// run executes the program from an instruction on.
-func (x *execution) run(at int) {
-	for ; at < len(x.prog.Ins); at++ {
-		switch i := x.prog.Ins[at]; i.Kind {
-		case api.MScan, api.MBind, api.MNum:
-			x.choose(i, func() {
-				if !x.isLate(at) {
-					x.run(at + 1)
-				}
-			})
-			return
-		default:
-			if !x.passes(at) {
-				return
-			}
+		later := x.run(at + 1)
+		cut = min(cut, later)
+		if later <= at {
+			break
 		}
 	}
-	x.found.add(x.key())
+	return cut
 }
 
 // isLate reports whether all matches with the values that are set after an
@@ -116,33 +81,45 @@ func (x *execution) isLate(at int) bool {
 	return false
 }
 
-// choose sets the registers of an instruction in each possible way, and continues
+// choices sets the registers of an instruction in each possible way, and yields
 // each time.
-func (x *execution) choose(i api.MInstr, proceed func()) {
-	first, _ := x.targets(i)
-	switch i.Kind {
-	case api.MScan:
-		for _, class := range x.classes {
-			x.values[first] = uint64(class)
-			proceed()
-		}
-	case api.MBind:
-		for _, n := range x.nodesOf(i.A) {
-			if n.Op == i.Node.Op && n.Width == i.Node.Width && n.Val == i.Node.Val && n.Name == i.Node.Name {
+func (x *execution) choices(i api.MInstr) func(yield func() bool) {
+	first, _ := targets(x.prog, i)
+	return func(yield func() bool) {
+		switch i.Kind {
+		case api.MScan:
+			for _, class := range x.classes {
+				x.values[first] = uint64(class)
+				if !yield() {
+					return
+				}
+			}
+		case api.MBind:
+			for _, n := range x.nodesOf(i.A) {
+				if !sameOperator(n, i.Node) {
+					continue
+				}
 				for k, arg := range n.Args {
 					x.values[first+k] = uint64(arg)
 				}
-				proceed()
+				if !yield() {
+					return
+				}
 			}
-		}
-	case api.MNum:
-		for _, n := range x.nodesOf(i.A) {
-			if n.Op == api.OpConst {
+		case api.MNum:
+			for _, n := range x.nodesOf(i.A) {
 				x.values[first] = n.Val
-				proceed()
+				if n.Op == api.OpConst && !yield() {
+					return
+				}
 			}
 		}
 	}
+}
+
+// sameOperator reports whether two nodes differ in their Args alone.
+func sameOperator(a, b api.Node) bool {
+	return a.Op == b.Op && a.Width == b.Width && a.Val == b.Val && a.Name == b.Name
 }
 
 // passes reports whether execution continues after an instruction that sets no
@@ -211,34 +188,4 @@ func (x *execution) match(key []uint64) api.Match {
 		m.Nums = append(m.Nums, api.Bind{Name: s.Name, Val: key[roots+holes+k]})
 	}
 	return m
-}
-
-// collection collects keys, of which only the least different ones count.
-type collection struct {
-	most  int
-	keys  [][]uint64
-	bound []uint64 // the greatest key that counts, if there are enough of them
-}
-
-func (c *collection) add(key []uint64) {
-	c.keys = append(c.keys, key)
-	if len(c.keys) >= 2*c.most {
-		c.tidy()
-	}
-}
-
-// tidy removes the keys that do not count.
-func (c *collection) tidy() {
-	slices.SortFunc(c.keys, slices.Compare[[]uint64])
-	c.keys = slices.CompactFunc(c.keys, slices.Equal[[]uint64])
-	if len(c.keys) >= c.most {
-		c.keys = c.keys[:c.most]
-		c.bound = c.keys[c.most-1]
-	}
-}
-
-// first returns the keys that count in increasing order.
-func (c *collection) first() [][]uint64 {
-	c.tidy()
-	return c.keys
 }
