@@ -8,7 +8,16 @@ import (
 
 // Solve is specified in P41.4.
 func Solve(p api.Problem) ([]bool, int64, api.Errno) {
-	if _, e := Check(p); e != api.OK {
+	return solve(p, api.MaxRows)
+}
+
+// SolveAny is Solve without the limit of the number of rows.
+func SolveAny(p api.Problem) ([]bool, int64, api.Errno) {
+	return solve(p, len(p.Rows))
+}
+
+func solve(p api.Problem, rows int) ([]bool, int64, api.Errno) {
+	if _, e := check(p, rows); e != api.OK {
 		return nil, 0, e
 	}
 	chosen, ok := cheapest(rowsOf(p), pricesOf(p.Costs))
@@ -112,7 +121,7 @@ func demands(rows []row) []row {
 	for _, r := range rows {
 		demand := anyOf(r.pos)
 		isKnown := func(known row) bool { return known.implies(demand) }
-		if r.neg == 0 || slices.ContainsFunc(rows, isKnown) || slices.ContainsFunc(more, isKnown) {
+		if r.neg == 0 || r.pos == 0 || slices.ContainsFunc(rows, isKnown) || slices.ContainsFunc(more, isKnown) {
 			continue
 		}
 		if _, _, ok := settle(rows, 0, r.pos); !ok {
@@ -124,15 +133,17 @@ func demands(rows []row) []row {
 
 // withoutImplied drops rows that hold because one of some variables is true.
 func withoutImplied(rows []row) []row {
+	var reasons []int // the rows that may imply others; they can be few among many
+	for k, r := range rows {
+		if r.neg == 0 {
+			reasons = append(reasons, k)
+		}
+	}
 	rest := make([]row, 0, len(rows))
 	for i, r := range rows {
-		isReason := func(k int) bool {
-			return rows[k].neg == 0 && rows[k].implies(r) && (k < i || !r.implies(rows[k]))
-		}
-		implied := false
-		for k := 0; k < len(rows) && !implied; k++ {
-			implied = k != i && isReason(k)
-		}
+		implied := slices.ContainsFunc(reasons, func(k int) bool {
+			return k != i && rows[k].implies(r) && (k < i || !r.implies(rows[k]))
+		})
 		if !implied {
 			rest = append(rest, r)
 		}

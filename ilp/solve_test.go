@@ -343,3 +343,39 @@ func TestSolveLimits(t *testing.T) {
 		t.Error(cost, e, trueOnes(x))
 	}
 }
+
+// TestSolveAny checks that SolveAny is Solve without the limit of the number of rows.
+func TestSolveAny(t *testing.T) {
+	for i, c := range cases {
+		want, wantCost, wantError := ilp.Solve(c.p)
+		if len(c.p.Rows) > api.MaxRows {
+			continue
+		}
+		if x, cost, e := ilp.SolveAny(c.p); !slices.Equal(x, want) || cost != wantCost || e != wantError {
+			t.Errorf("case %d: %v, %d, %d, not %v, %d, %d", i, x, cost, e, want, wantCost, wantError)
+		}
+	}
+	p := problem(12)
+	for i := range 12 {
+		for k := range i {
+			for range 20 {
+				p.Rows = append(p.Rows, anyOf(i, k))
+			}
+		}
+	}
+	if x, cost, e := ilp.Solve(p); len(x) != 0 || cost != 0 || e != api.ErrLong {
+		t.Error(x, cost, e)
+	}
+	x, cost, e := ilp.SolveAny(p)
+	if len(p.Rows) != 1320 || e != api.OK || x[0] || len(trueOnes(x)) != 11 || cost != ilp.Cost(p, x) {
+		t.Error(x, cost, e)
+	}
+	p.Rows = append(p.Rows, row(1))
+	if x, cost, e := ilp.SolveAny(p); len(x) != 0 || cost != 0 || e != api.ErrInfeasible {
+		t.Error(x, cost, e)
+	}
+	p.Rows = append(p.Rows, row(0, 12, 1))
+	if x, cost, e := ilp.SolveAny(p); len(x) != 0 || cost != 0 || e != api.ErrRange {
+		t.Error(x, cost, e)
+	}
+}
