@@ -241,6 +241,10 @@ func checkAll(t *testing.T, r *rand.Rand, g *egraph.Graph, rules []api.Rule, l [
 		}
 		processed++
 	}
+	extended := copyOf(t, g)
+	if own, n, all := apply.Extend(extended, rules, 1, l, apply.Copy(log), nodes); n != len(want)-1 || all != (processed == len(l)) || !slices.EqualFunc(own, want, sameUse) || !reflect.DeepEqual(extended.Dump(), model.Dump()) {
+		t.Fatalf("%v: %v, %d, %v, not %v", l, own, n, all, want)
+	}
 	got, n, all := apply.All(g, rules, 1, l, log, nodes)
 	if n != len(want)-1 || all != (processed == len(l)) || !slices.EqualFunc(got, want, sameUse) || !reflect.DeepEqual(g.Dump(), model.Dump()) {
 		t.Fatalf("%v: %v, %d, %v, not %v", l, got, n, all, want)

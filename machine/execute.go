@@ -2,31 +2,26 @@ package machine
 
 import (
 	"saturate/api"
-	"saturate/egraph"
 	"saturate/represent"
 )
 
 // execution executes a program on an e-graph.
 type execution struct {
 	plan
-	graph   *egraph.Graph
-	classes []int
-	nodes   map[int][]api.Node // by class, as far as they were needed
-	lookups map[int]int        // by instruction, the class of its Term, likewise; -1 if it has none
-	values  []uint64           // of the registers
+	*Reader
+	lookups map[int]int // by instruction, the class of its Term, as far as it was needed; -1 if it has none
+	values  []uint64    // of the registers
 	found   *collection
 }
 
 // execute returns the first matches of a program, which is valid but for its limits.
-func execute(g *egraph.Graph, p api.MProg, most int) []api.Match {
+func (r *Reader) execute(p api.MProg, most int) []api.Match {
 	if most <= 0 {
 		return nil
 	}
 	x := &execution{
 		plan:    newPlan(p),
-		graph:   g,
-		classes: g.Classes(),
-		nodes:   map[int][]api.Node{},
+		Reader:  r,
 		lookups: map[int]int{},
 		values:  make([]uint64, registers(p)),
 		found:   &collection{most: min(most, api.MaxMatches)},
@@ -95,7 +90,7 @@ func (x *execution) choices(i api.MInstr) func(yield func() bool) {
 				}
 			}
 		case api.MBind:
-			for _, n := range x.nodesOf(i.A) {
+			for _, n := range x.nodesOf(x.class(i.A)) {
 				if !sameOperator(n, i.Node) {
 					continue
 				}
@@ -107,7 +102,7 @@ func (x *execution) choices(i api.MInstr) func(yield func() bool) {
 				}
 			}
 		case api.MNum:
-			for _, n := range x.nodesOf(i.A) {
+			for _, n := range x.nodesOf(x.class(i.A)) {
 				x.values[first] = n.Val
 				if n.Op == api.OpConst && !yield() {
 					return
@@ -139,17 +134,6 @@ func (x *execution) passes(at int) bool {
 // class returns the class in a register.
 func (x *execution) class(reg int) int {
 	return int(x.values[reg])
-}
-
-// nodesOf returns the nodes of the class in a register.
-func (x *execution) nodesOf(reg int) []api.Node {
-	class := x.class(reg)
-	l, ok := x.nodes[class]
-	if !ok {
-		l = x.graph.Nodes(class)
-		x.nodes[class] = l
-	}
-	return l
 }
 
 // lookup returns the class of the Term of an instruction, or -1.
