@@ -2,6 +2,7 @@ package machine_test
 
 import (
 	"math"
+	"math/rand/v2"
 	"slices"
 	"strconv"
 	"testing"
@@ -297,6 +298,35 @@ func TestOrder(t *testing.T) {
 					if want := (api.Match{Roots: []int{k / 49, k / 7 % 7}, Holes: []api.Pair{{Name: "a", Id: k % 7}}}); !machine.Same(m, want) {
 						t.Fatalf("%v with most %d: match %d is %v, not %v", order, most, k, m, want)
 					}
+				}
+			}
+		}
+	}
+}
+
+// TestNodeOrder checks that the first matches are returned also if the nodes of a class have another order than they (P26.2).
+func TestNodeOrder(t *testing.T) {
+	r := rand.New(rand.NewPCG(26, 2))
+	list := atoms(t, "", "(add ?b:8 ?a:8)")
+	for range 50 {
+		g := variables(t, 9)
+		perm := r.Perm(9)
+		for b, a := range perm {
+			if _, e := g.Add(api.Node{Op: api.OpAdd, Width: 8, Args: []int{b, a}}); e != api.OK {
+				t.Fatal(e)
+			}
+			g.Union(9, 9+b, api.WhyGiven)
+		}
+		g.Rebuild()
+		for most := range 11 {
+			l, e := machine.Find(g, list, most)
+			if e != api.OK || len(l) != min(most, 9) {
+				t.Fatal(perm, most, l, e)
+			}
+			for a, m := range l {
+				want := api.Match{Roots: []int{9}, Holes: []api.Pair{{Name: "a", Id: a}, {Name: "b", Id: slices.Index(perm, a)}}}
+				if !machine.Same(m, want) {
+					t.Fatalf("%v with most %d: %v", perm, most, l)
 				}
 			}
 		}

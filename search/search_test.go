@@ -315,7 +315,7 @@ func TestDone(t *testing.T) {
 	odd := pattern(t, "?a:8")
 	odd.Args = []api.Term{eval(8), eval(8, pattern(t, "?b:8"))}
 	num := pattern(t, "#c:8")
-	num.Args = []api.Term{eval(8)}
+	num.Args = []api.Term{eval(8), eval(8, pattern(t, "#d:8"))}
 	m := match(shift, x, 3)
 	for i, c := range []struct {
 		right api.Term
